@@ -519,10 +519,13 @@ func TestPiecesKeepNoText(t *testing.T) {
 // P4.3: what is answered is new memory: changing it changes no later answer.
 func TestAnswersAreNew(t *testing.T) {
 	r := dice()
-	pad := digest.Pad(3)
+	pad, other := digest.Pad(3), digest.Pad(3)
 	pad = pad[:cap(pad)]
 	for i := range pad {
 		pad[i] = 0xaa
+	}
+	if !bytes.Equal(other, plainPad(3)) {
+		t.Errorf("Pad(3), another answer: %x", other)
 	}
 	if p := digest.Pad(3); !bytes.Equal(p, plainPad(3)) {
 		t.Errorf("Pad(3): %x", p)
