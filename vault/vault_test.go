@@ -950,31 +950,7 @@ func TestEraseWithoutGoodKeys(t *testing.T) {
 
 // P12.1: a nil vault, every call, at all arguments.
 func TestNilVault(t *testing.T) {
-	var v *vault.Vault
-	for _, unit := range []int{0, 1, 2, -1} {
-		for _, block := range []int{0, 15, 16, -1} {
-			if c, err := v.Read(unit, block); c != (api.Cell{}) || err != api.ErrDown {
-				t.Errorf("Read: %x, %v", c, err)
-			}
-			if err := v.Commit([]api.Line{{Unit: unit, Block: block}}, nil); err != api.ErrDown {
-				t.Errorf("Commit: %v", err)
-			}
-		}
-		if c, err := v.Note(unit); c != (api.Cell{}) || err != api.ErrDown {
-			t.Errorf("Note: %x, %v", c, err)
-		}
-		for _, n := range []int{0, 63, 64} {
-			if err := v.Erase(unit, make([]byte, n)); err != api.ErrDown {
-				t.Errorf("Erase: %v", err)
-			}
-		}
-	}
-	if err := v.Commit(nil, nil); err != api.ErrDown {
-		t.Errorf("Commit: %v", err)
-	}
-	if h := v.Head(); h != (api.Head{}) {
-		t.Errorf("Head: %x", h)
-	}
+	wantDown(t, nil, api.Head{})
 }
 
 // P12.1: a disk without power.
@@ -1002,41 +978,34 @@ func downBy() map[string]func(v *vault.Vault) error {
 	}
 }
 
-// wantDown tells where a vault doesn't answer ErrDown, or what is named ahead of it.
+// wantDown tells where a vault answers anything but ErrDown, or another head, at good arguments and at such as are refused else.
 func wantDown(t *testing.T, v *vault.Vault, head api.Head) {
 	t.Helper()
-	for name, call := range downBy() {
-		if err := call(v); err != api.ErrDown {
-			t.Errorf("%s: %v", name, err)
+	down := func(c api.Cell, err error, call string, args ...int) {
+		t.Helper()
+		if c != (api.Cell{}) || err != api.ErrDown {
+			t.Errorf("%s%v: %x, %v, want ErrDown alone", call, args, c, err)
 		}
 	}
-	if c, err := v.Read(1, 15); c != (api.Cell{}) || err != api.ErrDown {
-		t.Errorf("Read: %x, %v", c, err)
+	numbers := []int{0, 1, 2, 15, 16, -1, math.MaxInt, math.MinInt}
+	for _, unit := range numbers {
+		for _, block := range numbers {
+			c, err := v.Read(unit, block)
+			down(c, err, "Read", unit, block)
+			line := []api.Line{{Unit: unit, Block: block}}
+			down(api.Cell{}, v.Commit(line, nil), "Commit", unit, block)
+			down(api.Cell{}, v.Commit(line, []api.Put{{At: 1}}), "Commit, with a note", unit, block)
+		}
+		c, err := v.Note(unit)
+		down(c, err, "Note", unit)
+		down(api.Cell{}, v.Commit(nil, []api.Put{{At: unit}}), "Commit of a note", unit)
+		down(api.Cell{}, v.Commit([]api.Line{{}}, []api.Put{{At: unit}}), "Commit of a note, with a line", unit)
+		down(api.Cell{}, v.Erase(unit, nil), "Erase without keys", unit)
+		for _, many := range []int{0, 63, 64, 65, 128} {
+			down(api.Cell{}, v.Erase(unit, make([]byte, many)), "Erase", unit, many)
+		}
 	}
-	if c, err := v.Note(1); c != (api.Cell{}) || err != api.ErrDown {
-		t.Errorf("Note: %x, %v", c, err)
-	}
-	if c, err := v.Read(2, 0); c != (api.Cell{}) || err != api.ErrRange {
-		t.Errorf("Read of no unit: %x, %v", c, err)
-	}
-	if c, err := v.Read(0, 16); c != (api.Cell{}) || err != api.ErrRange {
-		t.Errorf("Read of no block: %x, %v", c, err)
-	}
-	if c, err := v.Note(-1); c != (api.Cell{}) || err != api.ErrRange {
-		t.Errorf("Note of no unit: %x, %v", c, err)
-	}
-	if err := v.Commit(nil, []api.Put{{At: 2}}); err != api.ErrRange {
-		t.Errorf("Commit of no unit: %v", err)
-	}
-	if err := v.Commit([]api.Line{{Block: -1}}, nil); err != api.ErrRange {
-		t.Errorf("Commit of no block: %v", err)
-	}
-	if err := v.Erase(2, nil); err != api.ErrRange {
-		t.Errorf("Erase of no unit: %v", err)
-	}
-	if err := v.Erase(0, ramp(0, 63)); err != api.ErrKey {
-		t.Errorf("Erase with 63 bytes: %v", err)
-	}
+	down(api.Cell{}, v.Commit(nil, nil), "Commit of nothing")
 	if h := v.Head(); h != head {
 		t.Errorf("head %x, want %x", h, head)
 	}
@@ -1061,6 +1030,7 @@ func TestBehindDown(t *testing.T) {
 			t.Errorf("%s: %v", name, err)
 		}
 		head := x.m.head
+		wantDown(t, x.v, head)
 		x.p.Crash()
 		made := x.p.Steps()
 		wantDown(t, x.v, head)
@@ -1073,16 +1043,39 @@ func TestBehindDown(t *testing.T) {
 	}
 }
 
-// P12.1: a vault behind ErrDown, while the disk still has no power.
-func TestDownWithoutPower(t *testing.T) {
-	x := started(t, formatted(0))
-	if err := x.p.Arm(3); err != nil {
-		t.Fatal(err)
+// P12.1: a vault behind ErrDown, wherever within a call the power went, while the disk has none, and when it has it again. The head is that of the last commit all of whose steps were made: an erasure has more behind them.
+func TestBehindDownAtEachStep(t *testing.T) {
+	t.Parallel()
+	for _, c := range crashCases(t, dice()) {
+		t.Run(c.name, func(t *testing.T) {
+			t.Parallel()
+			x := started(t, c.from)
+			ahead := x.m.head
+			steps := c.plain(x.m, x.d)
+			committed := slices.IndexFunc(steps, func(s step) bool { return s.kind == "flush" && s.n == 117 })
+			behind := x.m.head
+			for _, cut := range cuts(len(steps) - 1) {
+				x := started(t, c.from)
+				if err := x.p.Arm(cut); err != nil {
+					t.Fatal(err)
+				}
+				if err := c.run(x.v); err != api.ErrDown {
+					t.Fatalf("cut at %d: %v", cut, err)
+				}
+				head := ahead
+				if cut > committed {
+					head = behind
+				}
+				wantDown(t, x.v, head)
+				x.p.Crash()
+				made := x.p.Steps()
+				wantDown(t, x.v, head)
+				if x.p.Steps() != made {
+					t.Errorf("cut at %d: a vault behind ErrDown makes steps", cut)
+				}
+			}
+		})
 	}
-	if err := x.v.Commit(nil, nil); err != api.ErrDown {
-		t.Fatal(err)
-	}
-	wantDown(t, x.v, x.m.head)
 }
 
 // P12.1: refused calls aren't ErrDown: behind them all goes on, also where the disk had no power meanwhile.
@@ -1094,12 +1087,25 @@ func TestBehindRefusedCalls(t *testing.T) {
 	if err := x.p.Flush(0, 0); err != api.ErrDown {
 		t.Fatal(err)
 	}
-	_, e1 := x.v.Read(2, 0)
-	_, e2 := x.v.Note(2)
-	e3, e4, e5 := x.v.Commit([]api.Line{{Unit: 2}}, nil), x.v.Erase(2, nil), x.v.Erase(1, nil)
-	if e1 != api.ErrRange || e2 != api.ErrRange || e3 != api.ErrRange || e4 != api.ErrRange || e5 != api.ErrKey {
-		t.Error(e1, e2, e3, e4, e5)
+	refused := func(want, err error, call string, args ...int) {
+		t.Helper()
+		if err != want {
+			t.Errorf("%s%v: %v, want %v", call, args, err, want)
+		}
 	}
+	for _, at := range [][2]int{{2, 0}, {-1, 0}, {0, 16}, {0, -1}} {
+		_, err := x.v.Read(at[0], at[1])
+		refused(api.ErrRange, err, "Read", at[:]...)
+		refused(api.ErrRange, x.v.Commit([]api.Line{{Unit: at[0], Block: at[1]}}, nil), "Commit", at[:]...)
+	}
+	for _, unit := range []int{2, -1} {
+		_, err := x.v.Note(unit)
+		refused(api.ErrRange, err, "Note", unit)
+		refused(api.ErrRange, x.v.Commit(nil, []api.Put{{At: unit}}), "Commit of a note", unit)
+		refused(api.ErrRange, x.v.Erase(unit, nil), "Erase", unit)
+	}
+	refused(api.ErrKey, x.v.Erase(1, nil), "Erase without keys", 1)
+	refused(api.ErrKey, x.v.Erase(1, make([]byte, 63)), "Erase with 63 bytes", 1)
 	x.p.Crash()
 	x.do(t, committing("a commit", []api.Line{{Block: 2, Cell: api.Cell{3}}}, nil))
 	x.wantReads(t)
